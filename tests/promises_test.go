@@ -1,0 +1,210 @@
+package tests
+
+import (
+	"math"
+	"math/rand"
+	"reflect"
+	"strings"
+	"sync"
+	"testing"
+	"unsafe"
+
+	"loop.example/g00168/impl"
+)
+
+var fragments = append(strings.Fields(documentKeys+" "+documentSigns),
+	" ", " ", " ", "\n", "\t", "(*", "*)", "\"", "\"a\"", "\"é\"", "\"\xff\"", "0AX", "0D800X", "12", "007", "x", "_y1", "é", "?", "\xff", "\xe2\x82", "(**)",
+	strings.Repeat("n", 39), "999999999999999999")
+
+func randomText(source *rand.Rand, most int) string {
+	var b strings.Builder
+	for range source.Intn(most + 1) {
+		switch source.Intn(8) {
+		case 0:
+			b.WriteByte(byte(source.Intn(256)))
+		case 1:
+			b.WriteRune(rune(source.Intn(0x110000)))
+		default:
+			b.WriteString(fragments[source.Intn(len(fragments))])
+		}
+	}
+	return b.String()
+}
+
+// randomWords is a text of right tokens, with the tokens that it has.
+func randomWords(source *rand.Rand, most int) (string, []impl.Token) {
+	gaps := []string{" ", "\n", "\t\r", "(* a *)", "(*(*\xff*)é*)", "  "}
+	texts := append(strings.Fields(documentKeys+" "+documentSigns), "a", "Zz_9", "7", "123456789", "00X", "0000022X", "\"b\"", "\"€\"")
+	var b strings.Builder
+	var list []impl.Token
+	for range source.Intn(most + 1) {
+		text := texts[source.Intn(len(texts))]
+		one, _, _ := impl.Tokens(text)
+		one[0].At = b.Len()
+		list = append(list, one[0])
+		b.WriteString(text)
+		b.WriteString(gaps[source.Intn(len(gaps))])
+	}
+	return b.String(), list
+}
+
+// Promise 2: what any text has as tokens, written apart, has the same ones.
+func TestTokensWrittenApartAreTheSame(t *testing.T) {
+	source := rand.New(rand.NewSource(2))
+	whole := 0
+	for range 20000 {
+		text := randomText(source, 12)
+		list, code, place := impl.Tokens(text)
+		if code != impl.OK {
+			checkFault(t, text, code, place)
+			continue
+		}
+		whole++
+		var b strings.Builder
+		for i := range list {
+			list[i].At = b.Len()
+			b.WriteString(tokenText(t, list[i]))
+			b.WriteString(" ")
+		}
+		wantTokens(t, b.String(), list...)
+	}
+	if whole < 1000 {
+		t.Error("too few of the texts have tokens:", whole)
+	}
+}
+
+// checkFault asks that what stands ahead of a fault is right, and what begins with it is not.
+func checkFault(t *testing.T, text string, code, place int) {
+	t.Helper()
+	if code != impl.ErrSyntax || place < 0 || place >= len(text) {
+		t.Fatalf("Tokens(%q): code %d at %d", text, code, place)
+	}
+	if _, code, _ := impl.Tokens(text[:place]); code != impl.OK {
+		t.Errorf("Tokens(%q): code %d ahead of the fault at %d", text, code, place)
+	}
+	wantFault(t, text[place:], impl.ErrSyntax, 0)
+}
+
+func TestRandomWords(t *testing.T) {
+	source := rand.New(rand.NewSource(3))
+	for range 2000 {
+		text, list := randomWords(source, 200)
+		wantTokens(t, text, list...)
+	}
+}
+
+// answers is all that the calls of the first two chapters say to one text and one number.
+type answers struct {
+	word, chars       string
+	of, code          int
+	name, key, char   bool
+	list              []impl.Token
+	tokens, at, wrong int
+}
+
+func ask(text string, number int) answers {
+	var a answers
+	a.name = impl.NameOK(text)
+	a.word = impl.CodeWord(number)
+	a.of = impl.CodeOf(text)
+	a.key = impl.IsKey(text)
+	a.char = impl.CharOK(number)
+	a.list, a.tokens, a.at = impl.Tokens(text)
+	a.chars, a.code = impl.CharText(number)
+	return a
+}
+
+func strangeTexts() []string {
+	texts := []string{
+		"", "\x00", "\xff", "END", "ok", "a b", "\"é\"", "(*", "x (* y *) 12 0AX",
+		strings.Repeat("a", impl.MaxText), strings.Repeat("(", impl.MaxText+1), strings.Repeat("(*", impl.MaxSource/2),
+		strings.Repeat("\xf0\x9f\x98\x80", impl.MaxSource/4), strings.Repeat("\xff", impl.MaxSource), strings.Repeat("\"", impl.MaxSource),
+		strings.Repeat("9", impl.MaxSource), strings.Repeat(";", impl.MaxTokens), strings.Repeat(";", impl.MaxTokens+1),
+		strings.Repeat(" x", 1<<20),
+	}
+	source := rand.New(rand.NewSource(1))
+	for range 300 {
+		texts = append(texts, randomText(source, 60))
+	}
+	return texts
+}
+
+var strangeNumbers = []int{
+	math.MinInt, math.MinInt32, -1, 0, 1, 10, 18, 19, 34, 127, 0xD7FF, 0xD800, 0xDFFF, 0xE000, 0x10FFFF, 0x110000, math.MaxInt32, 1<<32 + 65, math.MaxInt,
+}
+
+// Promise 1: alike arguments have alike answers, whatever was called ahead, and what is done to an answer touches no other one.
+func TestAnswersHangOnArgumentsAlone(t *testing.T) {
+	texts := strangeTexts()
+	first := make([]answers, len(texts))
+	for i, text := range texts {
+		first[i] = ask(text, strangeNumbers[i%len(strangeNumbers)])
+	}
+	for i := len(texts) - 1; i >= 0; i-- {
+		number := strangeNumbers[i%len(strangeNumbers)]
+		again := ask(strings.Clone(texts[i]), number)
+		if !reflect.DeepEqual(again, first[i]) {
+			t.Errorf("%.60q, %d: another answer the second time", texts[i], number)
+		}
+		for k := range again.list {
+			again.list[k] = impl.Token{Kind: -1, Text: "spoilt"}
+		}
+		_ = append(again.list, impl.Token{Kind: -2})
+		if third := ask(texts[i], number); !reflect.DeepEqual(third, first[i]) {
+			t.Errorf("%.60q, %d: another answer behind a spoilt one", texts[i], number)
+		}
+	}
+}
+
+func TestEachNumberWithEachCall(t *testing.T) {
+	for _, number := range strangeNumbers {
+		a, b := ask("", number), ask("", number)
+		if !reflect.DeepEqual(a, b) {
+			t.Errorf("%d: two answers", number)
+		}
+		if a.char != (a.code == impl.OK) || a.char == (a.chars == "") {
+			t.Errorf("%d: a character %v, its text %q, code %d", number, a.char, a.chars, a.code)
+		}
+	}
+}
+
+func TestAnswersOfCallsAtTheSameTime(t *testing.T) {
+	texts := strangeTexts()
+	alone := make([]answers, len(texts))
+	for i, text := range texts {
+		alone[i] = ask(text, i)
+	}
+	together := make([]answers, len(texts))
+	var group sync.WaitGroup
+	for i, text := range texts {
+		group.Add(1)
+		go func() {
+			defer group.Done()
+			together[i] = ask(text, i)
+		}()
+	}
+	group.Wait()
+	for i := range texts {
+		if !reflect.DeepEqual(alone[i], together[i]) {
+			t.Errorf("%.60q: another answer among others", texts[i])
+		}
+	}
+}
+
+// Promise 1: a text that stands in memory of the caller's own, which changes later, leaves what was answered.
+func TestAnswersShareNothingWithArguments(t *testing.T) {
+	memory := []byte("MODULE abc; x12 := <= \"é\" 12 0AX ~ END")
+	text := unsafe.String(&memory[0], len(memory))
+	before := string(memory)
+	list, code, _ := impl.Tokens(text)
+	want, _, _ := impl.Tokens(before)
+	if code != impl.OK || string(memory) != before {
+		t.Fatal("the argument is changed, or has a code", code)
+	}
+	for i := range memory {
+		memory[i] = '?'
+	}
+	if !reflect.DeepEqual(list, want) {
+		t.Error("tokens lie in the memory of the text:", list)
+	}
+}
