@@ -93,13 +93,18 @@ func TestRandomWords(t *testing.T) {
 	}
 }
 
-// answers is all that the calls of the first two chapters say to one text and one number.
+// answers is all that the calls of the first three chapters say to one text and one number, and to the tree of the text.
 type answers struct {
-	word, chars       string
-	of, code          int
-	name, key, char   bool
-	list              []impl.Token
-	tokens, at, wrong int
+	word, chars     string
+	of, code        int
+	name, key, char bool
+	list            []impl.Token
+	tokens, at      int
+	tree            impl.Node
+	parsed, wrong   int
+	right           bool
+	size, printed   int
+	text            string
 }
 
 func ask(text string, number int) answers {
@@ -111,6 +116,10 @@ func ask(text string, number int) answers {
 	a.char = impl.CharOK(number)
 	a.list, a.tokens, a.at = impl.Tokens(text)
 	a.chars, a.code = impl.CharText(number)
+	a.tree, a.parsed, a.wrong = impl.Parse(text)
+	a.right = impl.TreeOK(a.tree)
+	a.size = impl.Size(a.tree)
+	a.text, a.printed = impl.Print(a.tree)
 	return a
 }
 
@@ -121,6 +130,8 @@ func strangeTexts() []string {
 		strings.Repeat("\xf0\x9f\x98\x80", impl.MaxSource/4), strings.Repeat("\xff", impl.MaxSource), strings.Repeat("\"", impl.MaxSource),
 		strings.Repeat("9", impl.MaxSource), strings.Repeat(";", impl.MaxTokens), strings.Repeat(";", impl.MaxTokens+1),
 		strings.Repeat(" x", 1<<20),
+		grammarText, fullText, fullText[:len(fullText)/2], "MODULE M; END M.", "MODULE M; END N.", inConst(strings.Repeat("(", 30)), inBody(strings.Repeat("IF x THEN ", 100)),
+		inConst("1" + strings.Repeat("+1", 500)), "MODULE M; VAR a, b, c, d*: ARRAY 3 OF CHAR; END M.", "MODULE M; VAR a: ARRAY 0 OF CHAR; END M.",
 	}
 	source := rand.New(rand.NewSource(1))
 	for range 300 {
@@ -150,8 +161,68 @@ func TestAnswersHangOnArgumentsAlone(t *testing.T) {
 			again.list[k] = impl.Token{Kind: -1, Text: "spoilt"}
 		}
 		_ = append(again.list, impl.Token{Kind: -2})
+		spoil(&again.tree)
 		if third := ask(texts[i], number); !reflect.DeepEqual(third, first[i]) {
 			t.Errorf("%.60q, %d: another answer behind a spoilt one", texts[i], number)
+		}
+	}
+}
+
+// spoil writes over all of a tree, and behind the ends of its lists.
+func spoil(n *impl.Node) {
+	for i := range n.Kids {
+		spoil(&n.Kids[i])
+	}
+	behind := n.Kids[:cap(n.Kids)]
+	for i := range behind {
+		behind[i] = impl.Node{Kind: -1, Name: "spoilt"}
+	}
+	*n = impl.Node{Kind: -2}
+}
+
+// Promise 1: no two lists of an answer share memory, not even behind their ends.
+func TestListsOfATreeShareNoMemory(t *testing.T) {
+	for _, text := range []string{grammarText, fullText, "MODULE M; VAR a, b, c: ARRAY 3 OF CHAR; d, e, f: CHAR; PROCEDURE P(a, b, c: CHAR); VAR a, b: CHAR; END P; END M."} {
+		tree, code, _ := impl.Parse(text)
+		if code != impl.OK {
+			t.Fatal("code", code)
+		}
+		owners := map[*impl.Node]int{}
+		list := 0
+		eachNode(&tree, func(n *impl.Node) {
+			list++
+			whole := n.Kids[:cap(n.Kids)]
+			for i := range whole {
+				if owner := owners[&whole[i]]; owner != 0 {
+					t.Errorf("lists %d and %d share memory", owner, list)
+				}
+				owners[&whole[i]] = list
+			}
+		})
+	}
+}
+
+// Promise 1: the calls that are given trees leave them as they are, and answer alike to alike ones.
+func TestAnswersToTreesHangOnThemAlone(t *testing.T) {
+	source := rand.New(rand.NewSource(8))
+	for range 300 {
+		tree := randomTree(source)
+		if source.Intn(3) == 0 {
+			eachNode(&tree, func(n *impl.Node) {
+				if source.Intn(30) == 0 {
+					n.Kind = source.Intn(28)
+				}
+			})
+		}
+		before := copyTree(tree)
+		text, code := impl.Print(tree)
+		right, size := impl.TreeOK(tree), impl.Size(tree)
+		again, codeAgain := impl.Print(before)
+		if !reflect.DeepEqual(tree, before) || text != again || code != codeAgain || right != impl.TreeOK(before) || size != impl.Size(before) {
+			t.Errorf("a tree is changed, or has two answers: %.300v", before)
+		}
+		if right != (code == impl.OK) || right != (text != "") || size != count(before) {
+			t.Errorf("right %v, code %d, size %d: %.300v", right, code, size, before)
 		}
 	}
 }
@@ -193,18 +264,31 @@ func TestAnswersOfCallsAtTheSameTime(t *testing.T) {
 
 // Promise 1: a text that stands in memory of the caller's own, which changes later, leaves what was answered.
 func TestAnswersShareNothingWithArguments(t *testing.T) {
-	memory := []byte("MODULE abc; x12 := <= \"é\" 12 0AX ~ END")
-	text := unsafe.String(&memory[0], len(memory))
-	before := string(memory)
-	list, code, _ := impl.Tokens(text)
-	want, _, _ := impl.Tokens(before)
-	if code != impl.OK || string(memory) != before {
-		t.Fatal("the argument is changed, or has a code", code)
+	for _, before := range []string{"MODULE abc; x12 := <= \"é\" 12 0AX ~ END", fullText, grammarText} {
+		memory := []byte(before)
+		text := unsafe.String(&memory[0], len(memory))
+		list, _, _ := impl.Tokens(text)
+		tree, _, _ := impl.Parse(text)
+		want := ask(before, 0)
+		if want.tokens != impl.OK || string(memory) != before {
+			t.Fatal("the argument is changed, or has a code", want.tokens)
+		}
+		for i := range memory {
+			memory[i] = '?'
+		}
+		if !reflect.DeepEqual(list, want.list) || !reflect.DeepEqual(tree, want.tree) {
+			t.Error("what is answered lies in the memory of the text:", list, tree)
+		}
 	}
-	for i := range memory {
-		memory[i] = '?'
-	}
-	if !reflect.DeepEqual(list, want) {
-		t.Error("tokens lie in the memory of the text:", list)
+}
+
+// Promise 1: nor does a printed text lie in the memory of a name.
+func TestPrintedTextsShareNothingWithNames(t *testing.T) {
+	memory := []byte("abc")
+	name := unsafe.String(&memory[0], len(memory))
+	text, _ := impl.Print(namedNode(impl.NdModule, 0, name, blockNode(namedNode(impl.NdCall, 0, name))))
+	memory[0] = '?'
+	if text != "MODULE abc;\nBEGIN\n  abc()\nEND abc.\n" {
+		t.Error("a printed text changes:", text)
 	}
 }
