@@ -479,3 +479,33 @@ func TestPrintedTreesThatAreNoSources(t *testing.T) {
 		t.Error("the deepest loop is not there:", text)
 	}
 }
+
+// Right trees whose texts are short enough, but have more tokens than a source may, or more that are open: Parse says so.
+func TestPrintedTreesBeyondOtherBounds(t *testing.T) {
+	signs := func(many int) impl.Node {
+		value := nameNode("a")
+		for range many {
+			value = unaryNode("-", value)
+		}
+		return constNode(value)
+	}
+	var arguments []impl.Node
+	for range 690 {
+		arguments = append(arguments, intNode(1))
+	}
+	text, code := impl.Print(moduleNode(namedNode(impl.NdCall, 0, "P", arguments...)))
+	if code != impl.OK || len(text) > impl.MaxSource {
+		t.Fatal("a call of many arguments:", code, len(text))
+	}
+	_, want, place := impl.Tokens(text)
+	wantParseFault(t, text, impl.ErrMany, place)
+	if want != impl.ErrMany {
+		t.Error("its tokens have the code", want)
+	}
+	wantAgain(t, signs(20))
+	text, code = impl.Print(signs(21))
+	if code != impl.OK {
+		t.Fatal("21 signs:", code)
+	}
+	wantParseFault(t, text, impl.ErrDeep, strings.LastIndex(text, "-"))
+}
