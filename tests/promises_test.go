@@ -93,7 +93,7 @@ func TestRandomWords(t *testing.T) {
 	}
 }
 
-// answers is all that the calls of the first three chapters say to one text and one number, and to the tree of the text.
+// answers is all that the calls of the first four chapters say to one text and one number, to the tree of the text and to its interface.
 type answers struct {
 	word, chars     string
 	of, code        int
@@ -105,6 +105,12 @@ type answers struct {
 	right           bool
 	size, printed   int
 	text            string
+	checked, faulty int
+	face, read      impl.Interface
+	exports, form   int
+	bytes           []byte
+	written         int
+	print, summed   int
 }
 
 func ask(text string, number int) answers {
@@ -120,6 +126,11 @@ func ask(text string, number int) answers {
 	a.right = impl.TreeOK(a.tree)
 	a.size = impl.Size(a.tree)
 	a.text, a.printed = impl.Print(a.tree)
+	a.checked, a.faulty = impl.Check(a.tree, someImports())
+	a.face, a.exports = impl.InterfaceOf(a.tree, someImports())
+	a.read, a.form = impl.ReadInterface([]byte(text))
+	a.bytes, a.written = impl.InterfaceBytes(a.face)
+	a.print, a.summed = impl.PrintOf(a.read)
 	return a
 }
 
@@ -132,6 +143,8 @@ func strangeTexts() []string {
 		strings.Repeat(" x", 1<<20),
 		grammarText, fullText, fullText[:len(fullText)/2], "MODULE M; END M.", "MODULE M; END N.", inConst(strings.Repeat("(", 30)), inBody(strings.Repeat("IF x THEN ", 100)),
 		inConst("1" + strings.Repeat("+1", 500)), "MODULE M; VAR a, b, c, d*: ARRAY 3 OF CHAR; END M.", "MODULE M; VAR a: ARRAY 0 OF CHAR; END M.",
+		exportingText, withGiven("i := A.F(j); IF A.t THEN READ(v[i]) END"), withGiven("A.S(A.h, x)"), exporting(60, 0, 0), exporting(0, 61, 0), "MODULE M; CONST a* = 1 DIV 0; END M.",
+		string(writtenInterface(importA())), string(writtenInterface(face(manyItems(60)...))), string(writtenInterface(face(manyItems(61)...))), "OI1\x01A\x00", "OI1\x01A", "OI1" + strings.Repeat("\xff", impl.MaxText),
 	}
 	source := rand.New(rand.NewSource(1))
 	for range 300 {
@@ -162,6 +175,11 @@ func TestAnswersHangOnArgumentsAlone(t *testing.T) {
 		}
 		_ = append(again.list, impl.Token{Kind: -2})
 		spoil(&again.tree)
+		spoilInterface(&again.face)
+		spoilInterface(&again.read)
+		for k := range again.bytes {
+			again.bytes[k] = '?'
+		}
 		if third := ask(texts[i], number); !reflect.DeepEqual(third, first[i]) {
 			t.Errorf("%.60q, %d: another answer behind a spoilt one", texts[i], number)
 		}
@@ -178,6 +196,90 @@ func spoil(n *impl.Node) {
 		behind[i] = impl.Node{Kind: -1, Name: "spoilt"}
 	}
 	*n = impl.Node{Kind: -2}
+}
+
+// spoilInterface writes over all of an interface, and behind the ends of its lists.
+func spoilInterface(x *impl.Interface) {
+	items := x.Items[:cap(x.Items)]
+	for i := range items {
+		list := items[i].Params[:cap(items[i].Params)]
+		for k := range list {
+			list[k] = impl.Param{Type: -1}
+		}
+		items[i] = impl.Item{Kind: -1, Name: "spoilt"}
+	}
+	*x = impl.Interface{Module: "spoilt"}
+}
+
+// exportingText is a module that exports something of each Kind, several procedures with parameters among them.
+const exportingText = "MODULE abc; IMPORT A; CONST k* = A.k; VAR xyz*: INTEGER; v*: ARRAY 9 OF CHAR; " +
+	"PROCEDURE P*(a: INTEGER); END P; PROCEDURE Q*(VAR a: CHAR; b, c: BOOLEAN): CHAR; BEGIN RETURN a END Q; PROCEDURE R*(a, b: CHAR); END R; BEGIN xyz := k END abc."
+
+// Promise 1: no two lists of an answer share memory, not even behind their ends.
+func TestListsOfAnInterfaceShareNoMemory(t *testing.T) {
+	first, code := impl.InterfaceOf(treeOf(t, exportingText), someImports())
+	b, written := impl.InterfaceBytes(first)
+	second, form := impl.ReadInterface(b)
+	if code != impl.OK || written != impl.OK || form != impl.OK {
+		t.Fatal("codes", code, written, form)
+	}
+	owners := map[*impl.Param]int{}
+	for i, item := range append(append(first.Items, second.Items...), importA().Items...) {
+		whole := item.Params[:cap(item.Params)]
+		for k := range whole {
+			if owner, met := owners[&whole[k]]; met {
+				t.Errorf("lists %d and %d share memory", owner, i)
+			}
+			owners[&whole[k]] = i
+		}
+	}
+	if len(owners) < 12 {
+		t.Error("too few parameters:", len(owners))
+	}
+}
+
+// Promise 1: what stands behind the end of a list that is handed in stays.
+func TestInterfacesAreLeftAlone(t *testing.T) {
+	imports := append(someImports(), impl.Interface{Module: "behind"})
+	for i := range imports {
+		items := append(imports[i].Items, impl.Item{Name: "behind"})
+		for k := range items {
+			items[k].Params = append(items[k].Params, impl.Param{Type: 99})
+			items[k].Params = items[k].Params[:len(items[k].Params)-1]
+		}
+		imports[i].Items = items[:len(items)-1]
+	}
+	tree := treeOf(t, exportingText)
+	x, code := impl.InterfaceOf(tree, imports[:3])
+	impl.Check(tree, imports[:3])
+	if code != impl.OK {
+		t.Fatal("code", code)
+	}
+	spoilInterface(&x)
+	b, _ := impl.InterfaceBytes(imports[1])
+	memory := append(b[:len(b):len(b)], "behind"...)
+	impl.ReadInterface(memory[:len(b)])
+	if string(memory[len(b):]) != "behind" || string(memory[:len(b)]) != string(writtenInterface(importA())) {
+		t.Error("bytes are changed")
+	}
+	impl.PrintOf(imports[1])
+	for i, x := range imports {
+		if items := x.Items[:len(x.Items)+1]; items[len(x.Items)].Name != "behind" {
+			t.Error("something is written behind the items of", x.Module)
+		} else {
+			for _, item := range items {
+				if behind := item.Params[:len(item.Params)+1][len(item.Params)]; behind != (impl.Param{Type: 99}) {
+					t.Error("something is written behind the parameters of", item.Name)
+				}
+			}
+		}
+		if i < 3 && !sameInterface(x, someImports()[i]) {
+			t.Error("an import is changed:", x)
+		}
+	}
+	if imports[3].Module != "behind" {
+		t.Error("something is written behind the imports")
+	}
 }
 
 // Promise 1: no two lists of an answer share memory, not even behind their ends.
@@ -279,6 +381,24 @@ func TestAnswersShareNothingWithArguments(t *testing.T) {
 		if !reflect.DeepEqual(list, want.list) || !reflect.DeepEqual(tree, want.tree) {
 			t.Error("what is answered lies in the memory of the text:", list, tree)
 		}
+	}
+}
+
+// Promise 1: nor does an interface lie in the memory of a tree, or of bytes.
+func TestInterfacesShareNothingWithTrees(t *testing.T) {
+	memory := []byte("xyz")
+	name := unsafe.String(&memory[0], len(memory))
+	tree := namedNode(impl.NdModule, 0, name, namedNode(impl.NdConst, 1, name, intNode(1)), blockNode())
+	x, code := impl.InterfaceOf(tree, nil)
+	b, _ := impl.InterfaceBytes(x)
+	again, form := impl.ReadInterface(b)
+	memory[0] = '?'
+	for i := range b {
+		b[i] = '?'
+	}
+	want := impl.Interface{Module: "xyz", Items: []impl.Item{{Kind: impl.ItConst, Type: impl.TyInt, Value: 1, Name: "xyz"}}}
+	if code != impl.OK || form != impl.OK || !sameInterface(x, want) || !sameInterface(again, want) {
+		t.Error("an interface changes:", x, again)
 	}
 }
 
