@@ -39,7 +39,7 @@ func TestConstantsOfInterfaces(t *testing.T) {
 func rightItem(item impl.Item) bool {
 	base := item.Type == impl.TyInt || item.Type == impl.TyBool || item.Type == impl.TyChar
 	plain := item.Params == nil || len(item.Params) == 0
-	if len(item.Name) > 40 || !nameShape.MatchString(item.Name) {
+	if !textFits(item.Name, "own") {
 		return false
 	}
 	if item.Kind == impl.ItConst {
@@ -60,7 +60,7 @@ func rightItem(item impl.Item) bool {
 }
 
 func rightInterface(x impl.Interface) bool {
-	if len(x.Module) > 40 || !nameShape.MatchString(x.Module) || len(x.Items) > 60 {
+	if !textFits(x.Module, "own") || len(x.Items) > 60 {
 		return false
 	}
 	for i, item := range x.Items {
@@ -173,7 +173,7 @@ func TestRightInterfaces(t *testing.T) {
 		face(impl.Item{Kind: impl.ItVar, Type: impl.TyBool, Length: 100, Name: "x"}),
 		face(impl.Item{Kind: impl.ItProc, Name: "x", Params: manyParams(20)}),
 		face(impl.Item{Kind: impl.ItProc, Name: "A"}),
-		face(impl.Item{Kind: impl.ItProc, Name: "END"}),
+		face(impl.Item{Kind: impl.ItProc, Name: "End"}, impl.Item{Kind: impl.ItProc, Name: "end"}, impl.Item{Kind: impl.ItProc, Name: "ENDS"}, impl.Item{Kind: impl.ItProc, Name: "_END"}),
 	} {
 		if !wantInterface(t, x) {
 			t.Errorf("not right: %v", x)
@@ -238,6 +238,41 @@ func TestInterfacesWithOneChange(t *testing.T) {
 	}
 	if count[true] < 1000 || count[false] < 1000 {
 		t.Error("so many are right, and are not:", count)
+	}
+}
+
+// Promise 4: the names of an interface are names in modules, so none of them is a word of chapter 2.
+func TestInterfacesWithWordsForNames(t *testing.T) {
+	module := treeOf(t, "MODULE M; END M.")
+	for _, word := range strings.Fields(documentKeys) {
+		for _, x := range []impl.Interface{
+			{Module: word},
+			{Module: word, Items: manyItems(2)},
+			face(impl.Item{Kind: impl.ItConst, Type: impl.TyInt, Value: 7, Name: word}),
+			face(impl.Item{Kind: impl.ItVar, Type: impl.TyChar, Length: 2, Name: word}),
+			face(impl.Item{Kind: impl.ItProc, Name: word}),
+			face(append(manyItems(59), impl.Item{Kind: impl.ItProc, Name: word})...),
+		} {
+			if wantInterface(t, x) || wantRead(t, writtenInterface(x)) {
+				t.Errorf("right: %.300v", x)
+			}
+			imports := []impl.Interface{{Module: "B"}, x}
+			if code, place := impl.Check(module, imports); code != impl.ErrBad || place != 0 {
+				t.Errorf("Check with %.300v: code %d at %d", x, code, place)
+			}
+			if y, code := impl.InterfaceOf(module, imports); code != impl.ErrBad || y.Module != "" || y.Items != nil {
+				t.Errorf("InterfaceOf with %.300v: code %d, %v", x, code, y)
+			}
+		}
+		for _, name := range []string{strings.ToLower(word), word + "S", word + "1", "X" + word, "_" + word, word + "_"} {
+			x := impl.Interface{Module: name, Items: []impl.Item{{Kind: impl.ItVar, Type: impl.TyBool, Name: name}}}
+			if !wantInterface(t, x) || !wantRead(t, writtenInterface(x)) {
+				t.Errorf("not right: %v", x)
+			}
+			if code, place := impl.Check(module, []impl.Interface{x}); code != impl.OK || place != 0 {
+				t.Errorf("Check with %v: code %d at %d", x, code, place)
+			}
+		}
 	}
 }
 
@@ -397,6 +432,9 @@ func TestBytesThatAreNoInterface(t *testing.T) {
 		{"an object's mark", []byte("OO1\x01A\x00"), impl.ErrForm},
 		{"another mark", []byte("oi1\x01A\x00"), impl.ErrForm},
 		{"a module that is no name", []byte("OI1\x019\x00"), impl.ErrForm},
+		{"a module with a word for a name", []byte("OI1\x03END\x00"), impl.ErrForm},
+		{"an item with a word for a name", []byte("OI1\x01A\x01\x03\x00\x00\x00\x00\x00\x00\x00\x00\x00\x00\x02IF\x00"), impl.ErrForm},
+		{"an item with nearly a word for a name", []byte("OI1\x01A\x01\x03\x00\x00\x00\x00\x00\x00\x00\x00\x00\x00\x02If\x00"), impl.OK},
 		{"a module that does not end", []byte("OI1\xffA\x00"), impl.ErrForm},
 		{"items that are not there", []byte("OI1\x01A\xff"), impl.ErrForm},
 		{"sixty items", most, impl.OK},
