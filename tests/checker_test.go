@@ -370,7 +370,7 @@ func (m *typedMaker) worked(ty, levels int) impl.Node {
 	case ty == impl.TyInt && m.some(4) == 0:
 		return node(impl.NdOrd, m.value(impl.TyChar, levels))
 	case ty == impl.TyInt && m.some(3) == 0:
-		if name, _, ok := m.pick(impl.NdName, func(k known) bool { return k.item.Length > 0 }); ok {
+		if name, _, ok := m.pick(impl.NdName, func(k known) bool { return k.item.Length > 0 }); ok && m.some(1) == 0 {
 			return node(impl.NdLen, name)
 		}
 		return unaryNode("-", m.value(ty, levels))

@@ -4,6 +4,7 @@ import (
 	"math"
 	"math/rand"
 	"reflect"
+	"slices"
 	"strings"
 	"sync"
 	"testing"
@@ -93,24 +94,33 @@ func TestRandomWords(t *testing.T) {
 	}
 }
 
-// answers is all that the calls of the first four chapters say to one text and one number, to the tree of the text and to its interface.
+// answers is all that the calls of the first five chapters say to one text and one number, to the tree of the text, to its interface and to its object.
 type answers struct {
-	word, chars     string
-	of, code        int
-	name, key, char bool
-	list            []impl.Token
-	tokens, at      int
-	tree            impl.Node
-	parsed, wrong   int
-	right           bool
-	size, printed   int
-	text            string
-	checked, faulty int
-	face, read      impl.Interface
-	exports, form   int
-	bytes           []byte
-	written         int
-	print, summed   int
+	word, chars          string
+	of, code             int
+	name, key, char      bool
+	list                 []impl.Token
+	tokens, at           int
+	tree                 impl.Node
+	parsed, wrong        int
+	right                bool
+	size, printed        int
+	text                 string
+	checked, faulty      int
+	face, read           impl.Interface
+	exports, form        int
+	bytes                []byte
+	written              int
+	print, summed        int
+	object, loaded       impl.Object
+	compiled, compiledAt int
+	unloaded             int
+	kept                 []byte
+	stored               int
+	fits                 bool
+	verified, verifiedAt int
+	listing              string
+	listed               int
 }
 
 func ask(text string, number int) answers {
@@ -131,6 +141,16 @@ func ask(text string, number int) answers {
 	a.read, a.form = impl.ReadInterface([]byte(text))
 	a.bytes, a.written = impl.InterfaceBytes(a.face)
 	a.print, a.summed = impl.PrintOf(a.read)
+	a.object, a.compiled, a.compiledAt = impl.Compile(a.tree, someImports())
+	a.loaded, a.unloaded = impl.ReadObject([]byte(text))
+	a.kept, a.stored = impl.ObjectBytes(a.object)
+	a.fits = impl.ObjectOK(a.loaded)
+	proc := impl.Code{Name: text, Cells: number, List: []impl.Ins{{Op: number, A: number, Name: text}}}
+	if procs := slices.Concat(a.object.Procs, a.loaded.Procs); len(procs) > 0 {
+		proc = procs[0]
+	}
+	a.verified, a.verifiedAt = impl.VerifyCode(proc)
+	a.listing, a.listed = impl.Listing(proc)
 	return a
 }
 
@@ -145,6 +165,8 @@ func strangeTexts() []string {
 		inConst("1" + strings.Repeat("+1", 500)), "MODULE M; VAR a, b, c, d*: ARRAY 3 OF CHAR; END M.", "MODULE M; VAR a: ARRAY 0 OF CHAR; END M.",
 		exportingText, withGiven("i := A.F(j); IF A.t THEN READ(v[i]) END"), withGiven("A.S(A.h, x)"), exporting(60, 0, 0), exporting(0, 61, 0), "MODULE M; CONST a* = 1 DIV 0; END M.",
 		string(writtenInterface(importA())), string(writtenInterface(face(manyItems(60)...))), string(writtenInterface(face(manyItems(61)...))), "OI1\x01A\x00", "OI1\x01A", "OI1" + strings.Repeat("\xff", impl.MaxText),
+		string(writtenObject(fullObject())), string(writtenObject(manyObject(20, 100, 60))), string(writtenObject(manyObject(21, 0, 1))), "OO1\x01A", "OO1" + strings.Repeat("\xff", impl.MaxText), strings.Repeat("OO1", 1<<20),
+		withGiven("IF b & (i < 3) OR kb THEN v[i] := F(); R(v[1]) ELSE WHILE Q(j, c) DO READ(w[0]); WRITE(-i) END END"), exporting(61, 0, 0),
 	}
 	source := rand.New(rand.NewSource(1))
 	for range 300 {
@@ -177,6 +199,11 @@ func TestAnswersHangOnArgumentsAlone(t *testing.T) {
 		spoil(&again.tree)
 		spoilInterface(&again.face)
 		spoilInterface(&again.read)
+		spoilObject(&again.object)
+		spoilObject(&again.loaded)
+		for k := range again.kept {
+			again.kept[k] = '?'
+		}
 		for k := range again.bytes {
 			again.bytes[k] = '?'
 		}
@@ -209,6 +236,25 @@ func spoilInterface(x *impl.Interface) {
 		items[i] = impl.Item{Kind: -1, Name: "spoilt"}
 	}
 	*x = impl.Interface{Module: "spoilt"}
+}
+
+// spoilObject writes over all of an object, and behind the ends of its lists.
+func spoilObject(o *impl.Object) {
+	for i := range o.Needs[:cap(o.Needs)] {
+		o.Needs[:cap(o.Needs)][i] = impl.Need{Module: "spoilt", Print: -1}
+	}
+	for i := range o.Globals[:cap(o.Globals)] {
+		o.Globals[:cap(o.Globals)][i] = impl.Global{Name: "spoilt", Length: -1}
+	}
+	procs := o.Procs[:cap(o.Procs)]
+	for i := range procs {
+		list := procs[i].List[:cap(procs[i].List)]
+		for k := range list {
+			list[k] = impl.Ins{Op: -1, Name: "spoilt"}
+		}
+		procs[i] = impl.Code{Name: "spoilt", Params: -1}
+	}
+	*o = impl.Object{Module: "spoilt"}
 }
 
 // exportingText is a module that exports something of each Kind, several procedures with parameters among them.
@@ -410,5 +456,140 @@ func TestPrintedTextsShareNothingWithNames(t *testing.T) {
 	memory[0] = '?'
 	if text != "MODULE abc;\nBEGIN\n  abc()\nEND abc.\n" {
 		t.Error("a printed text changes:", text)
+	}
+}
+
+// Promise 1: no two lists of an answer share memory, not even behind their ends.
+func TestListsOfAnObjectShareNoMemory(t *testing.T) {
+	first, code, _ := impl.Compile(treeOf(t, exportingText), someImports())
+	b, written := impl.ObjectBytes(first)
+	second, form := impl.ReadObject(b)
+	if code != impl.OK || written != impl.OK || form != impl.OK {
+		t.Fatal("codes", code, written, form)
+	}
+	owners := map[*impl.Ins]int{}
+	for i, proc := range append(append([]impl.Code(nil), first.Procs...), second.Procs...) {
+		list := proc.List[:cap(proc.List)]
+		for k := range list {
+			if owner, met := owners[&list[k]]; met {
+				t.Errorf("lists %d and %d share memory", owner, i)
+			}
+			owners[&list[k]] = i
+		}
+	}
+	if len(owners) < 16 {
+		t.Error("too few instructions:", len(owners))
+	}
+	want := copyObject(first)
+	spoilObject(&second)
+	if !sameObject(first, want) {
+		t.Error("an object changes with the one that is read of its bytes")
+	}
+}
+
+// widened has room behind each of its lists, in which something stands.
+func widened(o impl.Object) impl.Object {
+	o.Needs = append(append([]impl.Need(nil), o.Needs...), impl.Need{Print: 99})[:len(o.Needs)]
+	o.Globals = append(append([]impl.Global(nil), o.Globals...), impl.Global{Length: 99})[:len(o.Globals)]
+	o.Procs = append(append([]impl.Code(nil), o.Procs...), impl.Code{Params: 99})[:len(o.Procs)]
+	for i := range o.Procs {
+		o.Procs[i].List = append(append([]impl.Ins(nil), o.Procs[i].List...), impl.Ins{Op: 99})[:len(o.Procs[i].List)]
+	}
+	return o
+}
+
+// Promise 1: what stands behind the end of a list that is handed in stays.
+func TestObjectsAreLeftAlone(t *testing.T) {
+	for _, o := range []impl.Object{fullObject(), manyObject(20, 100, 60), manyObject(21, 101, 61), {Module: "M"}, {}} {
+		wide := widened(o)
+		impl.ObjectOK(wide)
+		b, code := impl.ObjectBytes(wide)
+		again, codeAgain := impl.ObjectBytes(o)
+		if string(b) != string(again) || code != codeAgain {
+			t.Error("what stands behind a list tells:", code, codeAgain)
+		}
+		for _, proc := range wide.Procs {
+			impl.VerifyCode(proc)
+			impl.Listing(proc)
+			if behind := proc.List[:len(proc.List)+1][len(proc.List)]; behind != (impl.Ins{Op: 99}) {
+				t.Error("something is written behind a code:", behind)
+			}
+		}
+		if !sameObject(wide, o) || wide.Needs[:len(wide.Needs)+1][len(wide.Needs)].Print != 99 || wide.Globals[:len(wide.Globals)+1][len(wide.Globals)].Length != 99 || wide.Procs[:len(wide.Procs)+1][len(wide.Procs)].Params != 99 {
+			t.Errorf("an object is changed: %.300v", wide)
+		}
+	}
+	b := writtenObject(fullObject())
+	memory := append(b[:len(b):len(b)], "behind"...)
+	impl.ReadObject(memory[:len(b)])
+	if string(memory) != string(b)+"behind" {
+		t.Error("bytes are changed")
+	}
+}
+
+// Promise 1: the tree and the imports of what is compiled stay, and so does what stands behind their ends.
+func TestTreesThatAreCompiledAreLeftAlone(t *testing.T) {
+	imports := append(someImports(), impl.Interface{Module: "behind"})
+	tree := treeOf(t, exportingText)
+	before := copyTree(tree)
+	eachNode(&tree, func(n *impl.Node) {
+		n.Kids = append(n.Kids[:len(n.Kids):len(n.Kids)], impl.Node{Kind: 99})[:len(n.Kids)]
+	})
+	o, code, _ := impl.Compile(tree, imports[:3])
+	want := copyObject(o)
+	if code != impl.OK || !reflect.DeepEqual(copyTree(tree), before) || !reflect.DeepEqual(imports[:3], someImports()) || imports[3].Module != "behind" {
+		t.Error("an argument is changed, or has a code:", code)
+	}
+	eachNode(&tree, func(n *impl.Node) {
+		if behind := n.Kids[:len(n.Kids)+1][len(n.Kids)]; behind.Kind != 99 {
+			t.Error("something is written behind a list of kids:", behind)
+		}
+	})
+	spoil(&tree)
+	for i := range imports {
+		spoilInterface(&imports[i])
+	}
+	if !sameObject(o, want) {
+		t.Error("an object changes with what it was compiled of")
+	}
+}
+
+// Promise 1: nor does an object lie in the memory of a tree's names, or of bytes.
+func TestObjectsShareNothingWithTrees(t *testing.T) {
+	memory := []byte("xyzpqrxyzA")
+	name := unsafe.String(&memory[0], 3)
+	proc := unsafe.String(&memory[3], 3)
+	module := unsafe.String(&memory[9], 1)
+	build := func(name, proc, module string) impl.Node {
+		return namedNode(impl.NdModule, 0, name, namedNode(impl.NdImport, 0, module), namedNode(impl.NdVar, 0, name, typeNode(impl.TyInt)),
+			namedNode(impl.NdProc, 0, proc, numberNode(impl.NdResult, 0), blockNode()),
+			blockNode(node(impl.NdAssign, nameNode(name), ofNode(impl.NdName, module, "x")), namedNode(impl.NdCall, 0, proc), ofNode(impl.NdCall, module, "G")))
+	}
+	tree := build(name, proc, module)
+	imports := someImports()
+	imports[1].Module = module
+	o, code, _ := impl.Compile(tree, imports)
+	b, written := impl.ObjectBytes(o)
+	again, form := impl.ReadObject(b)
+	text, listed := impl.Listing(o.Procs[1])
+	for i := range memory {
+		memory[i] = '?'
+	}
+	for i := range b {
+		b[i] = '?'
+	}
+	want := codeByRules(build("xyz", "pqr", "A"), someImports())
+	if code != impl.OK || written != impl.OK || form != impl.OK || !sameObject(o, want) || !sameObject(again, want) {
+		t.Error("an object changes:", o, again)
+	}
+	if listed != impl.OK || text != listingByRule(want.Procs[1]) {
+		t.Error("a listing changes:", text)
+	}
+	memory = []byte("MNP")
+	names := bodyCode(impl.Ins{Op: impl.OpCall, Mod: unsafe.String(&memory[0], 1), Name: unsafe.String(&memory[1], 1)}, end())
+	text, _ = impl.Listing(names)
+	memory[0], memory[1] = '?', '?'
+	if text != "0 call M.N 0 0\n1 return\n" {
+		t.Error("a listing changes with a name:", text)
 	}
 }
