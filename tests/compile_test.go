@@ -211,8 +211,7 @@ func wantCompiled(t *testing.T, tree impl.Node, imports []impl.Interface) int {
 	var want impl.Object
 	if wantCode == impl.OK {
 		want = codeByRules(tree, imports)
-		_, faceCode := impl.InterfaceOf(tree, imports)
-		if faceCode != impl.OK || !rightObject(want) {
+		if !rightObject(want) {
 			want, wantCode, wantPlace = impl.Object{}, impl.ErrSize, 0
 		}
 	}
@@ -584,6 +583,44 @@ func manyImports(t *testing.T, many int) (impl.Node, []impl.Interface) {
 	return treeOf(t, text+"; END M."), imports
 }
 
+// exportingTree exports so many constants and procedures; a source that says so may be longer than one may be.
+func exportingTree(consts, procs int) impl.Node {
+	tree := namedNode(impl.NdModule, 0, "M")
+	for at := range consts {
+		tree.Kids = append(tree.Kids, namedNode(impl.NdConst, 1, "c"+strconv.Itoa(at), intNode(at)))
+	}
+	for at := range procs {
+		tree.Kids = append(tree.Kids, namedNode(impl.NdProc, 1, "p"+strconv.Itoa(at), numberNode(impl.NdResult, 0), blockNode()))
+	}
+	tree.Kids = append(tree.Kids, blockNode())
+	return tree
+}
+
+// How many things a module exports is no part of whether its object is right, but its print tells them all.
+func TestPrintsOfManyExports(t *testing.T) {
+	prints := map[int]int{}
+	for _, many := range []int{59, 60, 61, 62, 100, 255} {
+		tree := exportingTree(many, 0)
+		o, code, place := impl.Compile(tree, nil)
+		if code != impl.OK || place != 0 || len(o.Procs) != 1 || len(o.Globals) != 0 || len(o.Needs) != 0 {
+			t.Errorf("Compile, %d exports: code %d at %d, %v", many, code, place, o)
+		}
+		if _, code := impl.InterfaceOf(tree, nil); code != impl.OK && many <= 60 || code != impl.ErrMany && many > 60 {
+			t.Errorf("InterfaceOf, %d exports: code %d", many, code)
+		}
+		prints[o.Print]++
+		tree.Kids[many-1].Kids[0].N++
+		again, _, _ := impl.Compile(tree, nil)
+		prints[again.Print]++
+	}
+	if len(prints) != 12 {
+		t.Error("so many prints:", len(prints))
+	}
+	if o, _, _ := impl.Compile(exportingTree(61, 0), nil); o.Print != 2886050703 {
+		t.Error("the print of 61 exports:", o.Print)
+	}
+}
+
 func TestBoundsOfCompiledModules(t *testing.T) {
 	variables := func(many int) impl.Node {
 		return treeOf(t, modulesWith(many, "VAR ", "v#: CHAR; ", ""))
@@ -598,7 +635,6 @@ func TestBoundsOfCompiledModules(t *testing.T) {
 		}
 		return treeOf(t, modulesWith(19, "PROCEDURE P(a: CHAR); VAR ", "v#: ARRAY 100 OF CHAR; ", tail))
 	}
-	exports := func(many int) impl.Node { return treeOf(t, exporting(many, 0, 0)) }
 	for _, c := range []struct {
 		name string
 		tree impl.Node
@@ -619,9 +655,15 @@ func TestBoundsOfCompiledModules(t *testing.T) {
 		{"60 values", deepModule(t, 60), impl.OK},
 		{"61 values", deepModule(t, 61), impl.ErrSize},
 		{"62 values", deepModule(t, 62), impl.ErrSize},
-		{"60 exports", exports(60), impl.OK},
-		{"61 exports", exports(61), impl.ErrSize},
-		{"100 exports", exports(100), impl.ErrSize},
+		{"60 exports", exportingTree(60, 0), impl.OK},
+		{"61 exports", exportingTree(61, 0), impl.OK},
+		{"62 exports", exportingTree(62, 0), impl.OK},
+		{"200 exports", exportingTree(200, 0), impl.OK},
+		{"255 exports", exportingTree(255, 0), impl.OK},
+		{"256 exports", exportingTree(256, 0), impl.OK},
+		{"as many exports as a tree holds", exportingTree(349, 0), impl.OK},
+		{"300 exports and as many procedures as an object has", exportingTree(241, 59), impl.OK},
+		{"61 exports and more procedures than an object has", exportingTree(61, 60), impl.ErrSize},
 	} {
 		o, code, place := impl.Compile(c.tree, nil)
 		if code != c.code || place != 0 || (code != impl.OK) != noObject(o) {
