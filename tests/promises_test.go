@@ -94,7 +94,7 @@ func TestRandomWords(t *testing.T) {
 	}
 }
 
-// answers is all that the calls of the first five chapters say to one text and one number, to the tree of the text, to its interface and to its object.
+// answers is all that the calls of the first six chapters say to one text and one number, to the tree of the text, to its interface, to its object and to what that is linked to.
 type answers struct {
 	word, chars          string
 	of, code             int
@@ -121,6 +121,25 @@ type answers struct {
 	verified, verifiedAt int
 	listing              string
 	listed               int
+	image                impl.Image
+	missing              string
+	linked               int
+	starts               bool
+	run, short           impl.Result
+	ran, cut             int
+	lines, odd           string
+	told, oddly          int
+}
+
+// someObjects are the modules of someImports, compiled.
+func someObjects() []impl.Object {
+	var list []impl.Object
+	for _, text := range []string{"MODULE Other; END Other.", moduleA, "MODULE B; END B."} {
+		tree, _, _ := impl.Parse(text)
+		o, _, _ := impl.Compile(tree, nil)
+		list = append(list, o)
+	}
+	return list
 }
 
 func ask(text string, number int) answers {
@@ -151,6 +170,18 @@ func ask(text string, number int) answers {
 	}
 	a.verified, a.verifiedAt = impl.VerifyCode(proc)
 	a.listing, a.listed = impl.Listing(proc)
+	objects, main := someObjects(), text
+	for _, o := range []impl.Object{a.object, a.loaded} {
+		if o.Module != "" {
+			objects, main = append(objects, o), o.Module
+		}
+	}
+	a.image, a.missing, a.linked = impl.Link(objects, main)
+	a.starts = impl.ImageOK(a.image)
+	a.run, a.ran = impl.Run(a.image, []int{number, 65, 66, 67}, 700)
+	a.short, a.cut = impl.Run(a.image, nil, number)
+	a.lines, a.told = impl.OutText(a.run.Out)
+	a.odd, a.oddly = impl.OutText([]impl.Out{{Type: 1 + len(text)%3, Value: number}, {Type: number, Value: len(text)}})
 	return a
 }
 
@@ -201,6 +232,9 @@ func TestAnswersHangOnArgumentsAlone(t *testing.T) {
 		spoilInterface(&again.read)
 		spoilObject(&again.object)
 		spoilObject(&again.loaded)
+		spoilImage(&again.image)
+		spoilResult(&again.run)
+		spoilResult(&again.short)
 		for k := range again.kept {
 			again.kept[k] = '?'
 		}
@@ -255,6 +289,33 @@ func spoilObject(o *impl.Object) {
 		procs[i] = impl.Code{Name: "spoilt", Params: -1}
 	}
 	*o = impl.Object{Module: "spoilt"}
+}
+
+// spoilImage writes over all of an image, and behind the ends of its lists.
+func spoilImage(x *impl.Image) {
+	procs := x.Procs[:cap(x.Procs)]
+	for i := range procs {
+		list := procs[i].List[:cap(procs[i].List)]
+		for k := range list {
+			list[k] = impl.Ins{Op: -1, Name: "spoilt"}
+		}
+		procs[i] = impl.Code{Name: "spoilt", Params: -1}
+	}
+	for i := range x.Names[:cap(x.Names)] {
+		x.Names[:cap(x.Names)][i] = "spoilt"
+	}
+	for i := range x.Start[:cap(x.Start)] {
+		x.Start[:cap(x.Start)][i] = -1
+	}
+	*x = impl.Image{Globals: -1}
+}
+
+func spoilResult(r *impl.Result) {
+	list := r.Out[:cap(r.Out)]
+	for i := range list {
+		list[i] = impl.Out{Type: -1, Value: -1}
+	}
+	*r = impl.Result{End: -1}
 }
 
 // exportingText is a module that exports something of each Kind, several procedures with parameters among them.
@@ -591,5 +652,185 @@ func TestObjectsShareNothingWithTrees(t *testing.T) {
 	memory[0], memory[1] = '?', '?'
 	if text != "0 call M.N 0 0\n1 return\n" {
 		t.Error("a listing changes with a name:", text)
+	}
+}
+
+// Promise 1: no two lists of an image share memory, nor with what was linked, even where that shares some itself.
+func TestListsOfAnImageShareNoMemory(t *testing.T) {
+	list := withNeeds(offering("M"), offering("A"), offering("B"))
+	for i := range list {
+		list[i].Procs = list[0].Procs
+	}
+	list[1].Globals = list[0].Globals
+	list[0].Procs[2].List = list[0].Procs[0].List
+	x, _, code := impl.Link(list, "M")
+	if code != impl.OK || len(x.Procs) != 21 {
+		t.Fatal("code", code, len(x.Procs))
+	}
+	want := copyImage(x)
+	owners := map[*impl.Ins]int{}
+	for at, proc := range x.Procs {
+		whole := proc.List[:cap(proc.List)]
+		for k := range whole {
+			if owner, met := owners[&whole[k]]; met {
+				t.Errorf("lists %d and %d share memory", owner, at)
+			}
+			owners[&whole[k]] = at
+		}
+	}
+	for _, proc := range list[0].Procs {
+		for k := range proc.List {
+			if owner, met := owners[&proc.List[k]]; met {
+				t.Errorf("list %d shares memory with an object's", owner)
+			}
+		}
+	}
+	for i := range list {
+		spoilObject(&list[i])
+	}
+	if !sameImage(x, want) {
+		t.Error("an image changes with what it was linked of")
+	}
+}
+
+// Promise 1: what is linked stays as it is, and so does what stands behind the ends of its lists; so do lists that are full of room.
+func TestObjectsThatAreLinkedAreLeftAlone(t *testing.T) {
+	b := calling("B", namedIns(impl.OpGlobal, "A", "v"))
+	list := withNeeds(calling("M", namedIns(impl.OpCall, "A", "f2", 2, 1)), offering("A"), b)
+	before := copyObjects(list)
+	wide := append(copyObjects(list), impl.Object{Module: "behind"})
+	for i := range list {
+		wide[i] = widened(wide[i])
+	}
+	for _, main := range []string{"M", "A", "X", "behind"} {
+		x, module, code := impl.Link(wide[:len(list)], main)
+		again, moduleAgain, codeAgain := impl.Link(before, main)
+		if code != codeAgain || module != moduleAgain || !sameImage(x, again) {
+			t.Error("what stands behind a list tells:", code, module)
+		}
+		spoilImage(&x)
+	}
+	for i, o := range wide[:len(list)] {
+		if !sameObject(o, before[i]) || o.Needs[:len(o.Needs)+1][len(o.Needs)].Print != 99 || o.Globals[:len(o.Globals)+1][len(o.Globals)].Length != 99 || o.Procs[:len(o.Procs)+1][len(o.Procs)].Params != 99 {
+			t.Errorf("an object is changed: %.300v", o)
+		}
+		for _, proc := range o.Procs {
+			if behind := proc.List[:len(proc.List)+1][len(proc.List)]; behind != (impl.Ins{Op: 99}) {
+				t.Error("something is written behind a code:", behind)
+			}
+		}
+	}
+	if wide[len(list)].Module != "behind" {
+		t.Error("something is written behind the objects")
+	}
+}
+
+// Promise 1: an image that runs stays as it is, and so do the inputs.
+func TestImagesThatRunAreLeftAlone(t *testing.T) {
+	x := fullImage(t)
+	before := copyImage(x)
+	for i := range x.Procs {
+		list := x.Procs[i].List
+		x.Procs[i].List = append(list[:len(list):len(list)], impl.Ins{Op: 99})[:len(list)]
+	}
+	x.Procs = append(x.Procs[:len(x.Procs):len(x.Procs)], impl.Code{Params: 99})[:len(x.Procs)]
+	x.Names = append(x.Names[:len(x.Names):len(x.Names)], "behind")[:len(x.Names)]
+	x.Start = append(x.Start[:len(x.Start):len(x.Start)], 99)[:len(x.Start)]
+	input := []int{65, 66, 67, 99}
+	if !impl.ImageOK(x) {
+		t.Fatal("not right")
+	}
+	r, code := impl.Run(x, input[:3], 5000)
+	want, wantCode := impl.Run(before, []int{65, 66, 67}, 5000)
+	if code != impl.OK || wantCode != impl.OK || !sameResult(r, want) || len(r.Out) < 2 {
+		t.Error("what stands behind a list tells:", code, r, want)
+	}
+	spoilResult(&r)
+	again, _ := impl.Run(x, input[:3], 5000)
+	if !sameResult(again, want) {
+		t.Error("another result behind a spoilt one:", again)
+	}
+	if _, code := impl.OutText(append(again.Out[:len(again.Out):len(again.Out)], impl.Out{Type: 99})[:len(again.Out)]); code != impl.OK {
+		t.Error("what stands behind a list tells: code", code)
+	}
+	if !sameImage(x, before) || !slices.Equal(input, []int{65, 66, 67, 99}) || x.Procs[:len(x.Procs)+1][len(x.Procs)].Params != 99 || x.Names[:len(x.Names)+1][len(x.Names)] != "behind" || x.Start[:len(x.Start)+1][len(x.Start)] != 99 {
+		t.Error("an image is changed, or the inputs:", x, input)
+	}
+	for _, proc := range x.Procs {
+		if behind := proc.List[:len(proc.List)+1][len(proc.List)]; behind != (impl.Ins{Op: 99}) {
+			t.Error("something is written behind a code:", behind)
+		}
+	}
+}
+
+// Promise 1: one image may run many times at once.
+func TestRunsAtTheSameTime(t *testing.T) {
+	x := linkedTexts(t, moduleA, "MODULE M; IMPORT A; VAR i, n: INTEGER; PROCEDURE P(d: INTEGER): INTEGER; BEGIN IF d = 0 THEN RETURN n END; n := n + d; RETURN P(d - 1) END P; BEGIN READ(i); WHILE i < 20 DO WRITE(P(i)); A.G(); i := i + 1 END END M.")
+	alone := make([]impl.Result, 20)
+	for i := range alone {
+		alone[i], _ = impl.Run(x, []int{i}, 3000)
+	}
+	together := make([]impl.Result, len(alone))
+	var group sync.WaitGroup
+	for i := range together {
+		group.Add(1)
+		go func() {
+			defer group.Done()
+			together[i], _ = impl.Run(x, []int{i}, 3000)
+		}()
+	}
+	group.Wait()
+	for i := range alone {
+		if !sameResult(alone[i], together[i]) || alone[i].End == 0 || len(alone[i].Out) == 0 {
+			t.Errorf("%d: %v, among others %v", i, alone[i], together[i])
+		}
+	}
+}
+
+// Promise 1: nor does an image, or the module at fault, lie in the memory of names.
+func TestImagesShareNothingWithNames(t *testing.T) {
+	memory := []byte("MProcAxwhole")
+	text := func(from, to int) string { return unsafe.String(&memory[from], to-from) }
+	build := func(module, proc, other, variable string) []impl.Object {
+		m := graph("M")[0]
+		m.Module = module
+		m.Needs = []impl.Need{{Module: other, Print: printOfName("A")}}
+		m.Procs = []impl.Code{{Name: proc, List: []impl.Ins{end()}}, bodyCode(namedIns(impl.OpCall, module, proc), namedIns(impl.OpGlobal, other, variable), ins(impl.OpWrite, 1), end())}
+		a := graph("A")[0]
+		a.Module, a.Globals = other, []impl.Global{{Name: variable}}
+		return []impl.Object{m, a}
+	}
+	list := build(text(0, 1), text(1, 5), text(5, 6), text(6, 7))
+	x, _, code := impl.Link(list, text(0, 1))
+	var modules []string
+	var codes []int
+	add := func(main string, change func(list []impl.Object)) {
+		changed := copyObjects(list)
+		change(changed)
+		_, module, code := impl.Link(changed, main)
+		modules, codes = append(modules, module), append(codes, code)
+	}
+	add(text(7, 12), func(list []impl.Object) {})
+	add(text(0, 1), func(list []impl.Object) { list[1].Module = "B" })
+	add(text(0, 1), func(list []impl.Object) { list[1].Needs = []impl.Need{{Module: text(0, 1), Print: list[0].Print}} })
+	add(text(0, 1), func(list []impl.Object) { list[0].Needs[0].Print++ })
+	add(text(0, 1), func(list []impl.Object) { list[1].Globals = nil })
+	add(text(0, 1), func(list []impl.Object) {
+		list[0].Procs[0].Result, list[0].Procs[0].List = 1, []impl.Ins{ins(impl.OpTrap, 5)}
+	})
+	add(text(0, 1), func(list []impl.Object) {
+		for at := range 31 {
+			list[1].Globals = append(list[1].Globals, impl.Global{Name: strings.Repeat("g", at+1), Length: 100})
+		}
+	})
+	for i := range memory {
+		memory[i] = '?'
+	}
+	want, _, wantCode := impl.Link(build("M", "Proc", "A", "x"), "M")
+	if code != impl.OK || wantCode != impl.OK || !sameImage(x, want) {
+		t.Error("an image changes:", x)
+	}
+	if !slices.Equal(modules, strings.Fields("whole A M M M M M")) || !slices.Equal(codes, []int{impl.ErrNone, impl.ErrNone, impl.ErrCycle, impl.ErrPrint, impl.ErrName, impl.ErrCount, impl.ErrSize}) {
+		t.Error("modules at fault:", modules, codes)
 	}
 }
