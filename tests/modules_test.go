@@ -43,13 +43,18 @@ func linkedTexts(t *testing.T, texts ...string) impl.Image {
 	return x
 }
 
-// wantWritten runs modules, of which the last one is main; what they write is told in lines, here with blanks for their ends.
+// wantWritten runs modules, of which the last one is main, and evaluates them; what they write is told in lines, here with blanks for their ends.
 func wantWritten(t *testing.T, texts []string, input []int, end, trap int, want string) {
 	t.Helper()
 	r := wantRun(t, linkedTexts(t, texts...), input, impl.MaxFuel)
 	text, code := impl.OutText(r.Out)
 	if got := strings.TrimSuffix(strings.ReplaceAll(text, "\n", " "), " "); code != impl.OK || got != want || r.End != end || r.Trap != trap {
 		t.Errorf("%.900q: code %d, end %d, trap %d, %q, want %d, %d, %q", texts, code, r.End, r.Trap, got, end, trap, want)
+	}
+	list := sourcesOf(t, texts...)
+	s := wantEvaluated(t, list, list[len(list)-1].Name, input, impl.MaxFuel)
+	if s.End != r.End || s.Trap != r.Trap || !slices.Equal(s.Out, r.Out) {
+		t.Errorf("%.900q: evaluated %v, run %v", texts, s, r)
 	}
 }
 
@@ -308,13 +313,19 @@ func TestRandomModulesRun(t *testing.T) {
 			return
 		}
 	}
+	wantEnds(t, ends)
+	if tell < 300 {
+		t.Error("too few tell something of their own:", tell)
+	}
+}
+
+// wantEnds asks that of runs of modules some end in each way.
+func wantEnds(t *testing.T, ends map[[2]int]int) {
+	t.Helper()
 	for _, end := range [][2]int{{impl.EnHalt, 0}, {impl.EnFuel, 0}, {impl.EnTrap, 1}, {impl.EnTrap, 2}, {impl.EnTrap, 3}, {impl.EnTrap, 4}, {impl.EnTrap, 5}} {
 		if ends[end] < 10 {
 			t.Error("so many end so:", ends)
-			break
+			return
 		}
-	}
-	if tell < 300 {
-		t.Error("too few tell something of their own:", tell)
 	}
 }

@@ -94,7 +94,7 @@ func TestRandomWords(t *testing.T) {
 	}
 }
 
-// answers is all that the calls of the first six chapters say to one text and one number, to the tree of the text, to its interface, to its object and to what that is linked to.
+// answers is all that the calls of the first seven chapters say to one text and one number, to the tree of the text, to its interface, to its object, to what that is linked to, and to the sources that it stands among.
 type answers struct {
 	word, chars          string
 	of, code             int
@@ -129,6 +129,11 @@ type answers struct {
 	ran, cut             int
 	lines, odd           string
 	told, oddly          int
+	order                []string
+	ordered              int
+	sources              bool
+	result, briefly      impl.Result
+	evaluated, briefed   int
 }
 
 // someObjects are the modules of someImports, compiled.
@@ -182,7 +187,25 @@ func ask(text string, number int) answers {
 	a.short, a.cut = impl.Run(a.image, nil, number)
 	a.lines, a.told = impl.OutText(a.run.Out)
 	a.odd, a.oddly = impl.OutText([]impl.Out{{Type: 1 + len(text)%3, Value: number}, {Type: number, Value: len(text)}})
+	list, main := someSources(), text
+	if a.tree.Name != "" {
+		list, main = append(list, impl.Source{Name: a.tree.Name, Tree: a.tree}), a.tree.Name
+	}
+	a.order, a.ordered = impl.Order(list, main)
+	a.sources = impl.SourcesOK(list, main)
+	a.result, a.evaluated = impl.Evaluate(list, main, []int{number, 65, 66, 67}, 300)
+	a.briefly, a.briefed = impl.Evaluate(list, main, nil, number)
 	return a
+}
+
+// someSources are the modules of someImports.
+func someSources() []impl.Source {
+	var list []impl.Source
+	for _, text := range []string{"MODULE Other; END Other.", moduleA, "MODULE B; END B."} {
+		tree, _, _ := impl.Parse(text)
+		list = append(list, impl.Source{Name: tree.Name, Tree: tree})
+	}
+	return list
 }
 
 func strangeTexts() []string {
@@ -235,6 +258,11 @@ func TestAnswersHangOnArgumentsAlone(t *testing.T) {
 		spoilImage(&again.image)
 		spoilResult(&again.run)
 		spoilResult(&again.short)
+		spoilResult(&again.result)
+		spoilResult(&again.briefly)
+		for k := range again.order[:cap(again.order)] {
+			again.order[:cap(again.order)][k] = "spoilt"
+		}
 		for k := range again.kept {
 			again.kept[k] = '?'
 		}
@@ -832,5 +860,93 @@ func TestImagesShareNothingWithNames(t *testing.T) {
 	}
 	if !slices.Equal(modules, strings.Fields("whole A M M M M M")) || !slices.Equal(codes, []int{impl.ErrNone, impl.ErrNone, impl.ErrCycle, impl.ErrPrint, impl.ErrName, impl.ErrCount, impl.ErrSize}) {
 		t.Error("modules at fault:", modules, codes)
+	}
+}
+
+// chatty has sources that tell much, one of which is not needed.
+func chatty(t *testing.T) []impl.Source {
+	return sourcesOf(t, "MODULE M; IMPORT A; VAR i, n: INTEGER; v: ARRAY 3 OF INTEGER; PROCEDURE P(d: INTEGER; VAR s: INTEGER): INTEGER; BEGIN IF d = 0 THEN RETURN n END; n := n + d; s := s + 1; RETURN P(d - 1, s) END P; "+
+		"BEGIN READ(i); WHILE i < 20 DO WRITE(P(i, v[i MOD 3])); A.G(); i := i + 1 END; WRITE(v[0] - v[1] * v[2]) END M.", moduleA, "MODULE C; IMPORT M; END C.")
+}
+
+// Promise 1: sources that are evaluated stay as they are, and so do the inputs and what stands behind the ends of lists.
+func TestSourcesAreLeftAlone(t *testing.T) {
+	list := chatty(t)
+	before := copySources(list)
+	wide := append(copySources(list), impl.Source{Name: "behind"})
+	var behind []*impl.Node
+	for i := range list {
+		eachNode(&wide[i].Tree, func(n *impl.Node) {
+			many := len(n.Kids)
+			n.Kids = append(n.Kids[:many:many], impl.Node{Kind: 99})
+			behind = append(behind, &n.Kids[many])
+			n.Kids = n.Kids[:many]
+		})
+	}
+	input := []int{3, 113, 67, 99}
+	for _, main := range []string{"M", "A", "C", "X", "behind"} {
+		order, code := impl.Order(wide[:3], main)
+		again, codeAgain := impl.Order(before, main)
+		right := impl.SourcesOK(wide[:3], main)
+		r, ran := impl.Evaluate(wide[:3], main, input[:2], 2000)
+		want, wantRan := impl.Evaluate(before, main, []int{3, 113}, 2000)
+		if !slices.Equal(order, again) || code != codeAgain || right != (ran == impl.OK) || ran != wantRan || !sameResult(r, want) {
+			t.Error("what stands behind a list tells:", main, order, code, right, r, ran)
+		}
+		spoilResult(&r)
+		if r, _ := impl.Evaluate(wide[:3], main, input[:2], 2000); !sameResult(r, want) {
+			t.Error("another result behind a spoilt one:", r)
+		}
+	}
+	if !reflect.DeepEqual(copySources(wide[:3]), before) || wide[3].Name != "behind" || !slices.Equal(input, []int{3, 113, 67, 99}) {
+		t.Error("an argument is changed")
+	}
+	for _, n := range behind {
+		if n.Kind != 99 {
+			t.Error("something is written behind a list of kids:", n)
+		}
+	}
+}
+
+// Promise 1: sources may be evaluated many times at once, also where they share memory.
+func TestEvaluationsAtTheSameTime(t *testing.T) {
+	list := chatty(t)
+	alone := make([]impl.Result, 20)
+	for i := range alone {
+		alone[i], _ = impl.Evaluate(list, "M", []int{i}, 3000)
+	}
+	together := make([]impl.Result, len(alone))
+	var group sync.WaitGroup
+	for i := range together {
+		group.Add(1)
+		go func() {
+			defer group.Done()
+			together[i], _ = impl.Evaluate(list, "M", []int{i}, 3000)
+		}()
+	}
+	group.Wait()
+	for i := range alone {
+		if !sameResult(alone[i], together[i]) || alone[i].End != impl.EnHalt || len(alone[i].Out) < 2 {
+			t.Errorf("%d: %v, among others %v", i, alone[i], together[i])
+		}
+	}
+}
+
+// Promise 1: nor does an order lie in the memory of names, be they those of sources, of imports or of main.
+func TestOrdersShareNothingWithNames(t *testing.T) {
+	memory := []byte("MABMAAM")
+	text := func(at int) string { return unsafe.String(&memory[at], 1) }
+	list := importing("M A B", "A", "B A")
+	for i := range list {
+		list[i].Name = text(i)
+	}
+	list[0].Tree.Name, list[1].Tree.Name = text(3), text(4)
+	list[2].Tree.Kids[0].Name = text(5)
+	order, code := impl.Order(list, text(6))
+	for i := range memory {
+		memory[i] = '?'
+	}
+	if code != impl.OK || !slices.Equal(order, []string{"A", "B", "M"}) {
+		t.Error("an order changes:", order, code)
 	}
 }

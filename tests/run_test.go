@@ -185,10 +185,7 @@ func wantRun(t *testing.T, x impl.Image, input []int, fuel int) impl.Result {
 	if want := runByRules(x, input, fuel); code != impl.OK || !sameResult(r, want) {
 		t.Errorf("Run(%.900v, %v, %d): code %d, %.600v, want %.600v", x, input, fuel, code, r, want)
 	}
-	if (r.Trap != 0) != (r.End == impl.EnTrap) || r.End < impl.EnHalt || r.End > impl.EnRoom || r.Used > fuel || (r.End == impl.EnFuel && r.Used != fuel) {
-		t.Errorf("Run: %.600v of %d", r, fuel)
-	}
-	wantFuel(t, x, input, fuel, r)
+	wantFuel(t, func(fuel int) (impl.Result, int) { return impl.Run(x, input, fuel) }, fuel, r)
 	if !reflect.DeepEqual(copyImage(x), before) || !slices.Equal(input, read) {
 		t.Errorf("an argument is changed: %.900v, %v", before, read)
 	}
@@ -196,15 +193,18 @@ func wantRun(t *testing.T, x impl.Image, input []int, fuel int) impl.Result {
 }
 
 // wantFuel asks for promise 6: more fuel changes nothing of a run that ended; less ends it where it is used up.
-func wantFuel(t *testing.T, x impl.Image, input []int, fuel int, r impl.Result) {
+func wantFuel(t *testing.T, run func(fuel int) (impl.Result, int), fuel int, r impl.Result) {
 	t.Helper()
+	if (r.Trap != 0) != (r.End == impl.EnTrap) || r.End < impl.EnHalt || r.End > impl.EnRoom || r.Used > fuel || (r.End == impl.EnFuel && r.Used != fuel) {
+		t.Errorf("a run with %d: %.600v", fuel, r)
+	}
 	for _, other := range []int{0, 1, r.Used / 2, r.Used - 1, r.Used, r.Used + 1, fuel + 1, impl.MaxFuel} {
 		if other < 0 || other > impl.MaxFuel || r.End == impl.EnFuel && other > fuel {
 			continue
 		}
-		again, code := impl.Run(x, input, other)
+		again, code := run(other)
 		if code != impl.OK {
-			t.Errorf("Run with fuel %d: code %d", other, code)
+			t.Errorf("a run with fuel %d: code %d", other, code)
 		}
 		if r.End != impl.EnFuel && other >= r.Used {
 			if !sameResult(again, r) {
