@@ -94,7 +94,7 @@ func TestRandomWords(t *testing.T) {
 	}
 }
 
-// answers is all that the calls of the first seven chapters say to one text and one number, to the tree of the text, to its interface, to its object, to what that is linked to, and to the sources that it stands among.
+// answers is all that the calls of the first eight chapters say to one text and one number, to the tree of the text, to its interface, to its object, to what that is linked to, and to the sources and files that it stands among.
 type answers struct {
 	word, chars          string
 	of, code             int
@@ -134,6 +134,30 @@ type answers struct {
 	sources              bool
 	result, briefly      impl.Result
 	evaluated, briefed   int
+	built                builds
+}
+
+// builds is what the calls of the eighth chapter say.
+type builds struct {
+	fit, right     bool
+	clean, cached  impl.Built
+	cleaned, saved int
+	entries, kept  []impl.Entry
+	files          []impl.File
+	list           []impl.Built
+	acted          int
+}
+
+func askBuilder(text string, number int, main string) builds {
+	var a builds
+	files := withFile(filesOf(moduleA, "MODULE B; END B."), main, text)
+	a.fit = impl.FilesOK(files)
+	a.clean, a.cleaned = impl.CleanBuild(files, main)
+	cache := []impl.Entry{{Module: main, Source: text, Bytes: text, Sum: number}, entryOf("", "", impl.Object{Module: "B", Procs: []impl.Code{bodyCode(end())}})}
+	a.right = impl.EntryOK(cache[0])
+	a.cached, a.entries, a.saved = impl.CachedBuild(files, cache, main)
+	a.files, a.kept, a.list, a.acted = impl.RunBuilder([]impl.BuildAct{writeText(moduleA), writeText("MODULE B; END B."), write(main, text), build(main), damage(main, number, number), build(main), damage(main, 20, number), build(main)})
+	return a
 }
 
 // someObjects are the modules of someImports, compiled.
@@ -195,6 +219,10 @@ func ask(text string, number int) answers {
 	a.sources = impl.SourcesOK(list, main)
 	a.result, a.evaluated = impl.Evaluate(list, main, []int{number, 65, 66, 67}, 300)
 	a.briefly, a.briefed = impl.Evaluate(list, main, nil, number)
+	if a.tree.Name == "" {
+		main = "M"
+	}
+	a.built = askBuilder(text, number, main)
 	return a
 }
 
@@ -263,6 +291,7 @@ func TestAnswersHangOnArgumentsAlone(t *testing.T) {
 		for k := range again.order[:cap(again.order)] {
 			again.order[:cap(again.order)][k] = "spoilt"
 		}
+		spoilBuilds(&again.built)
 		for k := range again.kept {
 			again.kept[k] = '?'
 		}
@@ -336,6 +365,35 @@ func spoilImage(x *impl.Image) {
 		x.Start[:cap(x.Start)][i] = -1
 	}
 	*x = impl.Image{Globals: -1}
+}
+
+func spoilBuilt(b *impl.Built) {
+	spoilImage(&b.Image)
+	for i := range b.Made[:cap(b.Made)] {
+		b.Made[:cap(b.Made)][i] = "spoilt"
+	}
+	*b = impl.Built{Code: -1}
+}
+
+func spoilEntries(list []impl.Entry) {
+	list = list[:cap(list)]
+	for i := range list {
+		list[i] = impl.Entry{Module: "spoilt", Sum: -1}
+	}
+}
+
+// spoilBuilds writes over all of what is built, and behind the ends of its lists.
+func spoilBuilds(b *builds) {
+	spoilBuilt(&b.clean)
+	spoilBuilt(&b.cached)
+	spoilEntries(b.entries)
+	spoilEntries(b.kept)
+	for i := range b.files[:cap(b.files)] {
+		b.files[:cap(b.files)][i] = impl.File{Name: "spoilt"}
+	}
+	for i := range b.list[:cap(b.list)] {
+		spoilBuilt(&b.list[:cap(b.list)][i])
+	}
 }
 
 func spoilResult(r *impl.Result) {
@@ -948,5 +1006,179 @@ func TestOrdersShareNothingWithNames(t *testing.T) {
 	}
 	if code != impl.OK || !slices.Equal(order, []string{"A", "B", "M"}) {
 		t.Error("an order changes:", order, code)
+	}
+}
+
+// someBuilds are files, entries of which some are taken, and a main one.
+func someBuilds(t *testing.T) ([]impl.File, []impl.Entry) {
+	t.Helper()
+	files := filesOf(moduleA, "MODULE B; IMPORT A; CONST b* = 2; BEGIN WRITE(A.k) END B.", "MODULE C; END C.", "MODULE M; IMPORT A, B; VAR i: INTEGER; BEGIN i := 2; WRITE(A.F(i) + B.b) END M.")
+	_, entries := wantClean(t, files, "M")
+	entries[1].Bytes = entries[1].Bytes[1:]
+	return files, append(entries, impl.Entry{Module: "X", Source: "x"}, entries[0])
+}
+
+// Promise 1: files, entries and acts stay as they are, and so does what stands behind the ends of lists.
+func TestWhatIsBuiltIsLeftAlone(t *testing.T) {
+	files, entries := someBuilds(t)
+	wideFiles := append(slices.Clone(files), impl.File{Name: "behind"}, impl.File{Name: "behind"})
+	wideEntries := append(slices.Clone(entries), impl.Entry{Module: "behind"}, impl.Entry{Module: "behind"}, impl.Entry{Module: "behind"})
+	for _, main := range []string{"M", "A", "B", "C", "X", "behind"} {
+		built, behind, code := impl.CachedBuild(wideFiles[:4], wideEntries[:5], main)
+		want, wantBehind := buildByRules(files, entries, main)
+		clean, _ := impl.CleanBuild(wideFiles[:4], main)
+		if code != impl.OK || !sameBuilt(built, want) || !slices.Equal(behind, wantBehind) || !sameButMade(clean, want) {
+			t.Error("what stands behind a list tells:", main, code, built)
+		}
+		spoilBuilt(&built)
+		spoilBuilt(&clean)
+		spoilEntries(behind)
+	}
+	if !slices.Equal(wideFiles[:4], files) || !slices.Equal(wideEntries[:5], entries) {
+		t.Error("an argument is changed:", wideFiles, wideEntries)
+	}
+	for _, f := range wideFiles[4:] {
+		if f.Name != "behind" {
+			t.Error("something is written behind the files:", f)
+		}
+	}
+	for _, e := range wideEntries[5:] {
+		if e.Module != "behind" {
+			t.Error("something is written behind the entries:", e)
+		}
+	}
+	acts := append([]impl.BuildAct{writeText(telling("M")), build("M"), damage("M", 0, 0), build("M"), remove("M")}, impl.BuildAct{Kind: 99})
+	before := slices.Clone(acts)
+	if _, _, builds, code := impl.RunBuilder(acts[:5]); code != impl.OK || len(builds) != 2 || !slices.Equal(acts, before) {
+		t.Error("acts are changed:", acts, code)
+	}
+}
+
+// Promise 1: no two lists of the builds of one answer share memory, whether their objects are made or kept.
+func TestListsOfBuildsShareNoMemory(t *testing.T) {
+	acts := []impl.BuildAct{writeText(moduleA), writeText(telling("M", "A")), build("M"), build("M"), build("A"), damage("M", 9, 9), build("M"), build("X"), writeText(moduleA + " "), build("M")}
+	files, entries, builds, code := impl.RunBuilder(acts)
+	if code != impl.OK || len(builds) != 6 {
+		t.Fatal("code", code, len(builds))
+	}
+	var want []impl.Built
+	for _, b := range builds {
+		want = append(want, copyBuilt(b))
+	}
+	owners := map[any]int{}
+	met := func(at int, place any) {
+		if owner, met := owners[place]; met {
+			t.Errorf("lists of builds %d and %d share memory", owner, at)
+		}
+		owners[place] = at
+	}
+	for at, b := range builds {
+		for k := range b.Made[:cap(b.Made)] {
+			met(at, &b.Made[:cap(b.Made)][k])
+		}
+		for k := range b.Image.Procs[:cap(b.Image.Procs)] {
+			met(at, &b.Image.Procs[:cap(b.Image.Procs)][k])
+			list := b.Image.Procs[:cap(b.Image.Procs)][k].List
+			for i := range list[:cap(list)] {
+				met(at, &list[:cap(list)][i])
+			}
+		}
+		for k := range b.Image.Names[:cap(b.Image.Names)] {
+			met(at, &b.Image.Names[:cap(b.Image.Names)][k])
+		}
+	}
+	if len(owners) < 100 {
+		t.Error("too few places:", len(owners))
+	}
+	for at := range builds {
+		for other := range builds {
+			if other >= at && !sameBuilt(builds[other], want[other]) {
+				t.Error("a build changes with one ahead of it")
+			}
+		}
+		spoilBuilt(&builds[at])
+	}
+	wantFiles := []impl.File{{Name: "A", Text: moduleA + " "}, {Name: "M", Text: telling("M", "A")}}
+	if !slices.Equal(files, wantFiles) || len(entries) != 2 || !impl.EntryOK(entries[0]) || !impl.EntryOK(entries[1]) {
+		t.Error("files and entries change with builds:", files, entries)
+	}
+}
+
+// Promise 1: the same files and entries may be built many times at once.
+func TestBuildsAtTheSameTime(t *testing.T) {
+	files, entries := someBuilds(t)
+	mains := []string{"M", "A", "B", "C", "X"}
+	together := make([]builds, 20)
+	var group sync.WaitGroup
+	for i := range together {
+		group.Add(1)
+		go func() {
+			defer group.Done()
+			b := &together[i]
+			b.cached, b.entries, b.saved = impl.CachedBuild(files, entries, mains[i%5])
+			b.clean, b.cleaned = impl.CleanBuild(files, mains[i%5])
+			b.fit, b.right = impl.FilesOK(files), impl.EntryOK(entries[0])
+		}()
+	}
+	group.Wait()
+	for i, b := range together {
+		built, behind := wantBuilt(t, files, entries, mains[i%5])
+		if b.saved != impl.OK || b.cleaned != impl.OK || !b.fit || !b.right || !sameBuilt(b.cached, built) || !slices.Equal(b.entries, behind) || !sameButMade(b.clean, built) {
+			t.Errorf("%d: %v among others, %v alone", i, b.cached, built)
+		}
+	}
+}
+
+// Promise 1: nor does what is built lie in the memory of names and texts.
+func TestBuildsShareNothingWithTexts(t *testing.T) {
+	var memory []byte
+	type part struct{ from, to int }
+	text := func(at part) string { return unsafe.String(&memory[at.from], at.to-at.from) }
+	lay := func(t string) part {
+		memory = append(memory, t...)
+		return part{len(memory) - len(t), len(memory)}
+	}
+	sources, kept := someBuilds(t)
+	kept[1] = entryOf(kept[1].Source, kept[1].Faces, impl.Object{Module: "B"}) // not right
+	var names, texts []part
+	for _, f := range sources {
+		names, texts = append(names, lay(f.Name)), append(texts, lay(f.Text))
+	}
+	var fields [][4]part
+	for _, e := range kept {
+		fields = append(fields, [4]part{lay(e.Module), lay(e.Source), lay(e.Faces + "x"), lay(e.Bytes)})
+	}
+	m, x := lay("M"), lay("X")
+	var files []impl.File
+	var acts []impl.BuildAct
+	for i := range names {
+		files = append(files, impl.File{Name: text(names[i]), Text: text(texts[i])})
+		acts = append(acts, write(text(names[i]), text(texts[i])))
+	}
+	var entries []impl.Entry
+	for i, at := range fields {
+		at[2].to--
+		entries = append(entries, impl.Entry{Module: text(at[0]), Source: text(at[1]), Faces: text(at[2]), Bytes: text(at[3]), Sum: kept[i].Sum})
+	}
+	built, behind, code := impl.CachedBuild(files, entries, text(m))
+	clean, cleaned := impl.CleanBuild(files, text(m))
+	missing, _ := impl.CleanBuild(files, text(x))
+	all, stored, list, acted := impl.RunBuilder(append(acts, build(text(m)), damage(text(m), 0, 0), build(text(x))))
+	for i := range memory {
+		memory[i] = '?'
+	}
+	want, wantBehind := buildByRules(sources, kept, "M")
+	if code != impl.OK || !sameBuilt(built, want) || !slices.Equal(behind, wantBehind) {
+		t.Error("a build changes with its texts:", built, behind)
+	}
+	want, wantBehind = buildByRules(sources, nil, "M")
+	b := []byte(wantBehind[2].Bytes)
+	b[0] = 0
+	wantBehind[2].Bytes = string(b)
+	if cleaned != impl.OK || !sameBuilt(clean, want) || missing.Module != "X" || missing.Code != impl.ErrNone {
+		t.Error("a clean build changes with its texts:", clean, missing)
+	}
+	if acted != impl.OK || !slices.Equal(all, sources) || !slices.Equal(stored, wantBehind) || len(list) != 2 || !sameBuilt(list[0], want) || list[1].Module != "X" {
+		t.Error("what acts make changes with their texts:", all, stored, list)
 	}
 }
