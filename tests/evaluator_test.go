@@ -289,6 +289,25 @@ func wantEvaluated(t *testing.T, list []impl.Source, main string, input []int, f
 	return r
 }
 
+// withDrawn has a module M behind those of the list, of which the second one is drawn anew half of the times.
+func withDrawn(source *rand.Rand, list []impl.Source, m impl.Node) []impl.Source {
+	list = append(slices.Clone(list), impl.Source{Name: "M", Tree: m})
+	if source.Intn(2) == 0 {
+		b := checkedModule(source)
+		b.Name, b.Kids = "B", b.Kids[1:]
+		list[1].Tree = b
+	}
+	return list
+}
+
+func drawnInput(source *rand.Rand) []int {
+	var input []int
+	for range source.Intn(8) {
+		input = append(input, source.Intn(200))
+	}
+	return input
+}
+
 // Promise 7: where both end, what is compiled, linked and run does what its sources do.
 func TestRandomSourcesAreEvaluated(t *testing.T) {
 	source := rand.New(rand.NewSource(27))
@@ -301,19 +320,11 @@ func TestRandomSourcesAreEvaluated(t *testing.T) {
 		if source.Intn(3) == 0 {
 			tree = hidden(source, tree)
 		}
-		list := append(slices.Clone(plain), impl.Source{Name: "M", Tree: tree})
-		if source.Intn(2) == 0 {
-			b := checkedModule(source)
-			b.Name, b.Kids = "B", b.Kids[1:]
-			list[1].Tree = b
-		}
+		list := withDrawn(source, plain, tree)
 		if !impl.SourcesOK(list, "M") {
 			continue
 		}
-		var input []int
-		for range source.Intn(8) {
-			input = append(input, source.Intn(200))
-		}
+		input := drawnInput(source)
 		source.Shuffle(len(list), func(i, k int) { list[i], list[k] = list[k], list[i] })
 		r := wantEvaluated(t, list, "M", input, source.Intn(1000))
 		ends[[2]int{r.End, r.Trap}]++

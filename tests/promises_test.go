@@ -5,6 +5,7 @@ import (
 	"math/rand"
 	"reflect"
 	"slices"
+	"strconv"
 	"strings"
 	"sync"
 	"testing"
@@ -94,7 +95,7 @@ func TestRandomWords(t *testing.T) {
 	}
 }
 
-// answers is all that the calls of the first eight chapters say to one text and one number, to the tree of the text, to its interface, to its object, to what that is linked to, and to the sources and files that it stands among.
+// answers is all that the calls of all chapters say to one text and one number, to the tree of the text, to its interface, to its object, to what that is linked to, and to the sources and files that it stands among.
 type answers struct {
 	word, chars          string
 	of, code             int
@@ -135,6 +136,7 @@ type answers struct {
 	result, briefly      impl.Result
 	evaluated, briefed   int
 	built                builds
+	console              sayings
 }
 
 // builds is what the calls of the eighth chapter say.
@@ -146,6 +148,24 @@ type builds struct {
 	files          []impl.File
 	list           []impl.Built
 	acted          int
+}
+
+// sayings is what the calls of the ninth chapter say.
+type sayings struct {
+	texts [7]string
+	codes [7]int
+}
+
+func askConsole(text string, number int, run impl.Result, built impl.Built) sayings {
+	var a sayings
+	a.texts[0], a.codes[0] = impl.Console(text)
+	a.texts[1], a.codes[1] = impl.Console("file M\n" + text + "\n.\nbuild M\nbuild M\nrun M 300 " + strconv.Itoa(number) + "\nremove M\n" + text)
+	a.texts[2], a.codes[2] = impl.Console("build " + text + "\nrun " + text + " 9\nfile " + text + "\n" + text)
+	a.texts[3], a.codes[3] = impl.EndText(impl.Result{End: number, Trap: len(text) % 7})
+	a.texts[4], a.codes[4] = impl.EndText(run)
+	a.texts[5], a.codes[5] = impl.BuiltText(impl.Built{Code: number, Place: number, Module: text, Made: []string{text, text}})
+	a.texts[6], a.codes[6] = impl.BuiltText(built)
+	return a
 }
 
 func askBuilder(text string, number int, main string) builds {
@@ -223,6 +243,7 @@ func ask(text string, number int) answers {
 		main = "M"
 	}
 	a.built = askBuilder(text, number, main)
+	a.console = askConsole(text, number, a.result, a.built.clean)
 	return a
 }
 
@@ -246,6 +267,7 @@ func strangeTexts() []string {
 		grammarText, fullText, fullText[:len(fullText)/2], "MODULE M; END M.", "MODULE M; END N.", inConst(strings.Repeat("(", 30)), inBody(strings.Repeat("IF x THEN ", 100)),
 		inConst("1" + strings.Repeat("+1", 500)), "MODULE M; VAR a, b, c, d*: ARRAY 3 OF CHAR; END M.", "MODULE M; VAR a: ARRAY 0 OF CHAR; END M.",
 		exportingText, withGiven("i := A.F(j); IF A.t THEN READ(v[i]) END"), withGiven("A.S(A.h, x)"), exporting(60, 0, 0), exporting(0, 61, 0), "MODULE M; CONST a* = 1 DIV 0; END M.",
+		"file M\nMODULE M; END M.\n.\nbuild M\nrun M 9\nremove M\n# x", "M", "M\n", "file M\nMODULE M;", strings.Repeat("\n", 300), strings.Repeat("\n", 301), strings.Repeat("build M\n", 300), strings.Repeat("run M 7 ", 8192),
 		string(writtenInterface(importA())), string(writtenInterface(face(manyItems(60)...))), string(writtenInterface(face(manyItems(61)...))), "OI1\x01A\x00", "OI1\x01A", "OI1" + strings.Repeat("\xff", impl.MaxText),
 		string(writtenObject(fullObject())), string(writtenObject(manyObject(20, 100, 60))), string(writtenObject(manyObject(21, 0, 1))), "OO1\x01A", "OO1" + strings.Repeat("\xff", impl.MaxText), strings.Repeat("OO1", 1<<20),
 		withGiven("IF b & (i < 3) OR kb THEN v[i] := F(); R(v[1]) ELSE WHILE Q(j, c) DO READ(w[0]); WRITE(-i) END END"), exporting(61, 0, 0),
@@ -1180,5 +1202,78 @@ func TestBuildsShareNothingWithTexts(t *testing.T) {
 	}
 	if acted != impl.OK || !slices.Equal(all, sources) || !slices.Equal(stored, wantBehind) || len(list) != 2 || !sameBuilt(list[0], want) || list[1].Module != "X" {
 		t.Error("what acts make changes with their texts:", all, stored, list)
+	}
+}
+
+const someLines = "file A\nMODULE A; CONST k* = 1;\nBEGIN WRITE(k) END A.\n.\nfile M\nMODULE M; IMPORT A; VAR i: INTEGER; BEGIN READ(i); WRITE(i DIV A.k) END M.\n.\nbuild M\nbuild M\nrun M 99 7\nrun M 99\nremove A\nbuild M\nfile Ax\nMODULE A; END A.\n.\nbuild Ax\nbuild X\nx y"
+
+// Promise 1: what is told of a build leaves it as it is, and what stands behind the ends of its lists; so does what is told of a run.
+func TestWhatIsToldIsLeftAlone(t *testing.T) {
+	for _, code := range []int{impl.OK, impl.ErrNone, -1} {
+		made := []string{"A", "B", "behind", "behind"}
+		procs := []impl.Code{{Name: "P"}, {Name: "behind"}}
+		b := impl.Built{Code: code, Place: 3, Module: "M", Image: impl.Image{Procs: procs[:1], Names: made[:2]}, Made: made[:2]}
+		before := copyBuilt(b)
+		text, _ := impl.BuiltText(b)
+		if want, _ := builtLine(before); text != want || !sameBuilt(b, before) {
+			t.Errorf("BuiltText(%v): %q, want %q", b, text, want)
+		}
+		if !slices.Equal(made, strings.Fields("A B behind behind")) || procs[1].Name != "behind" {
+			t.Error("something is written behind a list:", made, procs)
+		}
+	}
+	out := []impl.Out{{Type: 1, Value: 7}, {Type: 99}}
+	r := impl.Result{End: impl.EnTrap, Trap: impl.TrChar, Out: out[:1], Used: 5}
+	if text, code := impl.EndText(r); text != "trap char\n" || code != impl.OK || r.Used != 5 || out[0] != (impl.Out{Type: 1, Value: 7}) || out[1] != (impl.Out{Type: 99}) {
+		t.Error("a result is changed:", text, code, r, out)
+	}
+}
+
+// Promise 1: nor does what a console says, or what is told of a build, lie in the memory of texts.
+func TestWhatIsToldSharesNothingWithTexts(t *testing.T) {
+	memory := []byte(someLines)
+	said, code := impl.Console(unsafe.String(&memory[0], len(memory)))
+	if string(memory) != someLines {
+		t.Error("a text is changed:", string(memory))
+	}
+	names := []byte("MAB")
+	text := func(at int) string { return unsafe.String(&names[at], 1) }
+	built, _ := impl.BuiltText(impl.Built{Module: text(0), Made: []string{text(1), text(2)}})
+	missing, _ := impl.BuiltText(impl.Built{Code: impl.ErrNone, Module: text(0)})
+	copy(names, "???")
+	for i := range memory {
+		memory[i] = '?'
+	}
+	want := "ok\nok\nbuilt 2 A M\nbuilt 2\n1\n7\nhalt\n1\ntrap input\nok\nerror none A 0\nok\nerror name Ax 0\nerror none X 0\nerror form\n"
+	if code != impl.OK || said != want {
+		t.Errorf("what is said changes: code %d, %q", code, said)
+	}
+	if built != "built 0 A B\n" || missing != "error none M 0\n" {
+		t.Errorf("what is told changes: %q, %q", built, missing)
+	}
+}
+
+// Promise 1: consoles keep nothing of each other, not even at the same time.
+func TestConsolesAtTheSameTime(t *testing.T) {
+	lines := strings.Split(someLines, "\n")
+	texts := []string{someLines, "build M", "build A\nrun M 9", "remove A", strings.Join(lines[:8], "\n"), strings.Join(lines[4:], "\n")}
+	alone := make([]string, len(texts))
+	for i, text := range texts {
+		alone[i], _ = impl.Console(text)
+	}
+	together := make([]string, 60)
+	var group sync.WaitGroup
+	for i := range together {
+		group.Add(1)
+		go func() {
+			defer group.Done()
+			together[i], _ = impl.Console(texts[i%len(texts)])
+		}()
+	}
+	group.Wait()
+	for i, said := range together {
+		if said != alone[i%len(texts)] || said == "" {
+			t.Errorf("%d: %q among others, %q alone", i, said, alone[i%len(texts)])
+		}
 	}
 }
